@@ -2,7 +2,7 @@ package frame
 
 import "intaglio/api"
 
-// reader takes bytes off one by one. It stands still once some are lacking: all that it is asked for then is nought, so that one look at the end is enough.
+// reader takes pieces off the front of bytes. It stands still once some are lacking: all that it is asked for then is nought, so that one look at the end is enough.
 type reader struct {
 	rest    []byte
 	lacking bool
